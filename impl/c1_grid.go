@@ -1,0 +1,153 @@
+package impl
+
+import "slices"
+
+// MaxSide is the largest number of rows and of columns of a grid.
+const MaxSide = 5
+
+// MaxHeight is the greatest height.
+const MaxHeight = 12
+
+// place is the row and the column of a cell.
+type place [2]int
+
+// steps lead to the places beside one, in the order in which AroundOf lists them.
+var steps = [4]place{{-1, 0}, {0, -1}, {0, 1}, {1, 0}}
+
+// ValidGrid reports whether rows are a grid.
+func ValidGrid(h [][]int) bool {
+	if len(h) < 1 || len(h) > MaxSide {
+		return false
+	}
+	for _, row := range h {
+		if len(row) != len(h[0]) || !validRow(row) {
+			return false
+		}
+	}
+	return true
+}
+
+func validRow(row []int) bool {
+	if len(row) < 1 || len(row) > MaxSide {
+		return false
+	}
+	for _, height := range row {
+		if height < 0 || height > MaxHeight {
+			return false
+		}
+	}
+	return true
+}
+
+// AroundOf returns the cells beside one.
+func AroundOf(h [][]int, i int) []int {
+	if !validCell(h, i) {
+		return nil
+	}
+	return cellsBeside(h, i)
+}
+
+// OnEdge reports whether a cell is at the edge of a grid.
+func OnEdge(h [][]int, i int) bool {
+	return validCell(h, i) && len(cellsBeside(h, i)) < len(steps)
+}
+
+func validCell(h [][]int, i int) bool {
+	return ValidGrid(h) && i >= 0 && i < len(h)*len(h[0])
+}
+
+// cellsBeside is AroundOf without its checks, for callers that have made them.
+func cellsBeside(h [][]int, i int) []int {
+	columns := len(h[0])
+	at := place{i / columns, i % columns}
+	var cells []int
+	for _, step := range steps {
+		to := place{at[0] + step[0], at[1] + step[1]}
+		if to == nearestInside(h, to) {
+			cells = append(cells, to[0]*columns+to[1])
+		}
+	}
+	return cells
+}
+
+// nearestInside moves a place only if it is outside the grid, so one that stays equal is inside.
+func nearestInside(h [][]int, to place) place {
+	return place{
+		min(max(to[0], 0), len(h)-1),
+		min(max(to[1], 0), len(h[0])-1),
+	}
+}
+
+// FlatsOf returns for each cell the first cell of its flat.
+func FlatsOf(h [][]int) [][]int {
+	if !ValidGrid(h) {
+		return nil
+	}
+	return inRows(firstsOf(h), len(h[0]))
+}
+
+// firstsOf returns for each cell of a valid grid the first cell of its flat, in one list.
+func firstsOf(h [][]int) []int {
+	const unmet = -1
+	heights := slices.Concat(h...)
+	firsts := slices.Repeat([]int{unmet}, len(heights))
+	for first := range heights {
+		if firsts[first] != unmet {
+			continue
+		}
+		firsts[first] = first
+		met := []int{first}
+		for n := 0; n < len(met); n++ {
+			for _, k := range cellsBeside(h, met[n]) {
+				if firsts[k] == unmet && heights[k] == heights[first] {
+					firsts[k] = first
+					met = append(met, k)
+				}
+			}
+		}
+	}
+	return firsts
+}
+
+// inRows copies each row, since rows of a result share no memory.
+func inRows(list []int, columns int) [][]int {
+	var rows [][]int
+	for row := range slices.Chunk(list, columns) {
+		rows = append(rows, slices.Clone(row))
+	}
+	return rows
+}
+
+// PeaksOf returns the flats with no higher cell beside.
+func PeaksOf(h [][]int) []int {
+	return flatsWithout(h, func(beside, own int) bool { return beside > own })
+}
+
+// PitsOf returns the flats with no lower cell beside.
+func PitsOf(h [][]int) []int {
+	return flatsWithout(h, func(beside, own int) bool { return beside < own })
+}
+
+// flatsWithout returns the first cells of the flats that have no cell beside them which beats their height.
+func flatsWithout(h [][]int, beats func(beside, own int) bool) []int {
+	if !ValidGrid(h) {
+		return nil
+	}
+	heights := slices.Concat(h...)
+	firsts := firstsOf(h)
+	beaten := make([]bool, len(heights))
+	for i, first := range firsts {
+		for _, k := range cellsBeside(h, i) {
+			if beats(heights[k], heights[i]) {
+				beaten[first] = true
+			}
+		}
+	}
+	var cells []int
+	for i, first := range firsts {
+		if first == i && !beaten[i] {
+			cells = append(cells, i)
+		}
+	}
+	return cells
+}

@@ -1,0 +1,195 @@
+package tests
+
+import (
+	"fmt"
+	"math"
+	"slices"
+	"testing"
+
+	"loop.example/wateronheights/impl"
+)
+
+// sampleGrids returns valid grids of all shapes: every one of few cells and low heights,
+// those of one height, and for each shape some of mixed heights, the same in each run.
+func sampleGrids() [][][]int {
+	var grids [][][]int
+	mixed := mixer(1)
+	for r := 1; r <= impl.MaxSide; r++ {
+		for c := 1; c <= impl.MaxSide; c++ {
+			if r*c <= 6 {
+				grids = append(grids, everyGrid(r, c, 3)...)
+			}
+			for height := range impl.MaxHeight + 1 {
+				grids = append(grids, gridOf(r, c, func() int { return height }))
+			}
+			for n := range 60 {
+				top := 1 + n%impl.MaxHeight
+				grids = append(grids, gridOf(r, c, func() int { return mixed(top + 1) }))
+			}
+		}
+	}
+	return grids
+}
+
+// mixer returns a function that gives numbers from 0 up to less than its argument, in a fixed order.
+func mixer(seed uint64) func(int) int {
+	state := seed
+	return func(n int) int {
+		state = state*6364136223846793005 + 1442695040888963407
+		return int(state>>33) % n
+	}
+}
+
+func gridOf(r, c int, next func() int) [][]int {
+	h := make([][]int, r)
+	for row := range h {
+		h[row] = make([]int, c)
+		for column := range h[row] {
+			h[row][column] = next()
+		}
+	}
+	return h
+}
+
+// everyGrid returns all grids of r rows and c columns with heights below so many.
+func everyGrid(r, c, heights int) [][][]int {
+	count := 1
+	for range r * c {
+		count *= heights
+	}
+	var grids [][][]int
+	for n := range count {
+		rest := n
+		grids = append(grids, gridOf(r, c, func() int {
+			height := rest % heights
+			rest /= heights
+			return height
+		}))
+	}
+	return grids
+}
+
+// badGrids returns rows that are not a grid, by what is wrong with them.
+func badGrids() map[string][][]int {
+	flat := func(r, c int) [][]int { return gridOf(r, c, func() int { return 1 }) }
+	bad := map[string][][]int{
+		"nil":                           nil,
+		"no rows":                       {},
+		"one row without heights":       {{}},
+		"one nil row":                   {nil},
+		"rows without heights":          {{}, {}},
+		"a row without heights":         {{1, 1}, {}},
+		"no heights in the first row":   {{}, {1}},
+		"a shorter row":                 {{1, 1}, {1}},
+		"a longer row":                  {{1}, {1, 1}},
+		"a longer row in the middle":    {{1, 1}, {1, 1, 1}, {1, 1}},
+		"as many heights, unequal rows": {{1, 1, 1}, {1}},
+		"a row too many":                flat(impl.MaxSide+1, 1),
+		"a row too many of many":        flat(impl.MaxSide+1, impl.MaxSide),
+		"a height too many in a row":    flat(1, impl.MaxSide+1),
+		"a height too many in all rows": flat(impl.MaxSide, impl.MaxSide+1),
+		"far too many rows":             flat(100, 2),
+	}
+	for _, height := range []int{-1, impl.MaxHeight + 1, math.MinInt, math.MaxInt} {
+		for _, side := range []int{1, 3, impl.MaxSide} {
+			for i := range side * side {
+				h := flat(side, side)
+				h[i/side][i%side] = height
+				bad[fmt.Sprintf("height %d at the cell %d of %d rows", height, i, side)] = h
+			}
+		}
+	}
+	return bad
+}
+
+// badCells returns numbers that are not a cell of the grid.
+func badCells(h [][]int) []int {
+	n := cellsOf(h)
+	return []int{-1, -n, n, n + 1, math.MinInt, math.MaxInt}
+}
+
+func cellsOf(h [][]int) int { return len(h) * len(h[0]) }
+
+func heightAt(rows [][]int, i int) int { return rows[i/len(rows[0])][i%len(rows[0])] }
+
+func cloneRows(rows [][]int) [][]int {
+	clone := make([][]int, len(rows))
+	for r := range rows {
+		clone[r] = slices.Clone(rows[r])
+	}
+	return clone
+}
+
+// turned returns a grid with its rows as columns.
+func turned(h [][]int) [][]int {
+	t := make([][]int, len(h[0]))
+	for c := range t {
+		for r := range h {
+			t[c] = append(t[c], h[r][c])
+		}
+	}
+	return t
+}
+
+// upsideDown returns a grid with low heights for high ones.
+func upsideDown(h [][]int) [][]int {
+	u := cloneRows(h)
+	for r := range u {
+		for c := range u[r] {
+			u[r][c] = impl.MaxHeight - u[r][c]
+		}
+	}
+	return u
+}
+
+func equalRows(a, b [][]int) bool {
+	return slices.EqualFunc(a, b, func(x, y []int) bool { return slices.Equal(x, y) })
+}
+
+// overwrite fills the rows, up to their capacity, with a number that no result has.
+func overwrite(rows ...[]int) {
+	for _, row := range rows {
+		row = row[:cap(row)]
+		for i := range row {
+			row[i] = -77
+		}
+	}
+}
+
+// checkGridToRows checks that a function keeps its argument, and that its rows share no memory with it or each other.
+func checkGridToRows(t *testing.T, name string, f func([][]int) [][]int) {
+	t.Helper()
+	for _, h := range sampleGrids() {
+		before := cloneRows(h)
+		want := cloneRows(f(h))
+		if !equalRows(h, before) {
+			t.Fatalf("%s changed %v to %v", name, before, h)
+		}
+		for r := range want {
+			got := f(h)
+			overwrite(got[r])
+			for k := range got {
+				if k != r && !slices.Equal(got[k], want[k]) {
+					t.Fatalf("%s(%v): rows %d and %d share memory", name, h, r, k)
+				}
+			}
+			if !equalRows(h, before) || !equalRows(f(h), want) {
+				t.Fatalf("%s(%v): its row %d is not its own", name, before, r)
+			}
+		}
+	}
+}
+
+// checkGridToList checks that a function keeps its argument, and that its list shares no memory with it.
+func checkGridToList(t *testing.T, name string, f func([][]int) []int) {
+	t.Helper()
+	for _, h := range sampleGrids() {
+		before := cloneRows(h)
+		got := f(h)
+		want := slices.Clone(got)
+		overwrite(got)
+		if !equalRows(h, before) || !slices.Equal(f(h), want) {
+			t.Fatalf("%s(%v): its result is not its own, or the grid is changed to %v", name, before, h)
+		}
+	}
+}
