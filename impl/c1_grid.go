@@ -49,11 +49,16 @@ func AroundOf(h [][]int, i int) []int {
 
 // OnEdge reports whether a cell is at the edge of a grid.
 func OnEdge(h [][]int, i int) bool {
-	return validCell(h, i) && len(cellsBeside(h, i)) < len(steps)
+	return validCell(h, i) && atEdge(h, i)
 }
 
 func validCell(h [][]int, i int) bool {
 	return ValidGrid(h) && i >= 0 && i < len(h)*len(h[0])
+}
+
+// atEdge is OnEdge without its checks, for callers that have made them.
+func atEdge(h [][]int, i int) bool {
+	return len(cellsBeside(h, i)) < len(steps)
 }
 
 // cellsBeside is AroundOf without its checks, for callers that have made them.
@@ -88,10 +93,16 @@ func FlatsOf(h [][]int) [][]int {
 
 // firstsOf returns for each cell of a valid grid the first cell of its flat, in one list.
 func firstsOf(h [][]int) []int {
-	const unmet = -1
 	heights := slices.Concat(h...)
-	firsts := slices.Repeat([]int{unmet}, len(heights))
-	for first := range heights {
+	return firstsOfPieces(h, func(i, k int) bool { return heights[i] == heights[k] })
+}
+
+// firstsOfPieces returns for each cell of a valid grid the first cell that is reached from it
+// over cells beside each other that are joined, in one list; joined must hold both ways.
+func firstsOfPieces(h [][]int, joined func(i, k int) bool) []int {
+	const unmet = -1
+	firsts := slices.Repeat([]int{unmet}, len(h)*len(h[0]))
+	for first := range firsts {
 		if firsts[first] != unmet {
 			continue
 		}
@@ -99,7 +110,7 @@ func firstsOf(h [][]int) []int {
 		met := []int{first}
 		for n := 0; n < len(met); n++ {
 			for _, k := range cellsBeside(h, met[n]) {
-				if firsts[k] == unmet && heights[k] == heights[first] {
+				if firsts[k] == unmet && joined(met[n], k) {
 					firsts[k] = first
 					met = append(met, k)
 				}
