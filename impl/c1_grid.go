@@ -63,13 +63,31 @@ func atEdge(h [][]int, i int) bool {
 
 // cellsBeside is AroundOf without its checks, for callers that have made them.
 func cellsBeside(h [][]int, i int) []int {
-	columns := len(h[0])
-	at := place{i / columns, i % columns}
 	var cells []int
 	for _, step := range steps {
-		to := place{at[0] + step[0], at[1] + step[1]}
-		if to == nearestInside(h, to) {
-			cells = append(cells, to[0]*columns+to[1])
+		if k, inside := cellAfter(h, i, step); inside {
+			cells = append(cells, k)
+		}
+	}
+	return cells
+}
+
+// cellAfter returns the cell to which a step leads from one of a valid grid, and whether there is one.
+func cellAfter(h [][]int, i int, step place) (int, bool) {
+	columns := len(h[0])
+	to := place{i/columns + step[0], i%columns + step[1]}
+	if to != nearestInside(h, to) {
+		return 0, false
+	}
+	return to[0]*columns + to[1], true
+}
+
+// cellsWhere returns the cells of a valid grid of which something holds, ascending.
+func cellsWhere(h [][]int, holds func(i int) bool) []int {
+	var cells []int
+	for i := range len(h) * len(h[0]) {
+		if holds(i) {
+			cells = append(cells, i)
 		}
 	}
 	return cells
@@ -94,12 +112,12 @@ func FlatsOf(h [][]int) [][]int {
 // firstsOf returns for each cell of a valid grid the first cell of its flat, in one list.
 func firstsOf(h [][]int) []int {
 	heights := slices.Concat(h...)
-	return firstsOfPieces(h, func(i, k int) bool { return heights[i] == heights[k] })
+	return firstsOfPieces(h, cellsBeside, func(i, k int) bool { return heights[i] == heights[k] })
 }
 
 // firstsOfPieces returns for each cell of a valid grid the first cell that is reached from it
-// over cells beside each other that are joined, in one list; joined must hold both ways.
-func firstsOfPieces(h [][]int, joined func(i, k int) bool) []int {
+// over cells near each other that are joined, in one list; near and joined must hold both ways.
+func firstsOfPieces(h [][]int, near func(h [][]int, i int) []int, joined func(i, k int) bool) []int {
 	const unmet = -1
 	firsts := slices.Repeat([]int{unmet}, len(h)*len(h[0]))
 	for first := range firsts {
@@ -109,7 +127,7 @@ func firstsOfPieces(h [][]int, joined func(i, k int) bool) []int {
 		firsts[first] = first
 		met := []int{first}
 		for n := 0; n < len(met); n++ {
-			for _, k := range cellsBeside(h, met[n]) {
+			for _, k := range near(h, met[n]) {
 				if firsts[k] == unmet && joined(met[n], k) {
 					firsts[k] = first
 					met = append(met, k)
@@ -154,11 +172,5 @@ func flatsWithout(h [][]int, beats func(beside, own int) bool) []int {
 			}
 		}
 	}
-	var cells []int
-	for i, first := range firsts {
-		if first == i && !beaten[i] {
-			cells = append(cells, i)
-		}
-	}
-	return cells
+	return cellsWhere(h, func(i int) bool { return firsts[i] == i && !beaten[i] })
 }
