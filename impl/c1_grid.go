@@ -20,18 +20,19 @@ func ValidGrid(h [][]int) bool {
 		return false
 	}
 	for _, row := range h {
-		if len(row) != len(h[0]) || !validRow(row) {
+		if len(row) != len(h[0]) || !validHeights(row, MaxSide) {
 			return false
 		}
 	}
 	return true
 }
 
-func validRow(row []int) bool {
-	if len(row) < 1 || len(row) > MaxSide {
+// validHeights reports whether there is at least one number, and at most so many, all of them heights.
+func validHeights(numbers []int, most int) bool {
+	if len(numbers) < 1 || len(numbers) > most {
 		return false
 	}
-	for _, height := range row {
+	for _, height := range numbers {
 		if height < 0 || height > MaxHeight {
 			return false
 		}

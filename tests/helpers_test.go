@@ -193,3 +193,99 @@ func checkGridToList(t *testing.T, name string, f func([][]int) []int) {
 		}
 	}
 }
+
+// sampleProfiles returns valid profiles of all lengths: every one of few places and low heights, those whose places
+// are in a line, arches and hollows, and for each length some of mixed heights, the same in each run.
+func sampleProfiles() [][]int {
+	var profiles [][]int
+	mixed := mixer(6)
+	for places := 1; places <= impl.MaxProfile; places++ {
+		heights := 2
+		if places <= 6 {
+			heights = 3
+		}
+		for _, h := range everyGrid(1, places, heights) {
+			profiles = append(profiles, h[0])
+		}
+		profiles = append(profiles, profilesInALine(places)...)
+		profiles = append(profiles, bentProfiles(places)...)
+		for n := range 120 {
+			top := 1 + n%impl.MaxHeight
+			profiles = append(profiles, profileOf(places, func(int) int { return mixed(top + 1) }))
+		}
+	}
+	return profiles
+}
+
+func profileOf(places int, heightAt func(place int) int) []int {
+	p := make([]int, places)
+	for k := range p {
+		p[k] = heightAt(k)
+	}
+	return p
+}
+
+// profilesInALine returns all profiles of so many places that rise or fall by the same in each step, or stay level.
+func profilesInALine(places int) [][]int {
+	var profiles [][]int
+	for first := range impl.MaxHeight + 1 {
+		for rise := -impl.MaxHeight; rise <= impl.MaxHeight; rise++ {
+			p := profileOf(places, func(k int) int { return first + rise*k })
+			if isWithinHeights(p) {
+				profiles = append(profiles, p)
+			}
+			if places == 1 {
+				break
+			}
+		}
+	}
+	return profiles
+}
+
+func isWithinHeights(p []int) bool {
+	return slices.Min(p) >= 0 && slices.Max(p) <= impl.MaxHeight
+}
+
+// bentProfiles returns profiles of so many places that rise ever more or ever less, fall so, or do one after the other.
+func bentProfiles(places int) [][]int {
+	var profiles [][]int
+	for middle := range places {
+		hollow := profileOf(places, func(k int) int { return min((k-middle)*(k-middle)/2, impl.MaxHeight) })
+		arch := profileOf(places, func(k int) int { return impl.MaxHeight - hollow[k] })
+		profiles = append(profiles, hollow, arch)
+	}
+	return profiles
+}
+
+// badProfiles returns numbers that are not a profile, by what is wrong with them.
+func badProfiles() map[string][]int {
+	flat := func(places int) []int { return profileOf(places, func(int) int { return 1 }) }
+	bad := map[string][]int{
+		"nil":               nil,
+		"no heights":        {},
+		"a height too many": flat(impl.MaxProfile + 1),
+		"far too many":      flat(100),
+	}
+	for _, height := range []int{-1, impl.MaxHeight + 1, math.MinInt, math.MaxInt} {
+		for _, places := range []int{1, 2, 5, impl.MaxProfile} {
+			for k := range places {
+				p := flat(places)
+				p[k] = height
+				bad[fmt.Sprintf("height %d at the place %d of %d", height, k, places)] = p
+			}
+		}
+	}
+	return bad
+}
+
+// badPlaces returns numbers that are not a place of the profile.
+func badPlaces(p []int) []int {
+	return []int{-1, -len(p), len(p), len(p) + 1, math.MinInt, math.MaxInt}
+}
+
+// backwards returns a list the other way round.
+func backwards[T any](list []T) []T {
+	turned := slices.Clone(list)
+	slices.Reverse(turned)
+	return turned
+}
