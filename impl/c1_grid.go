@@ -16,24 +16,30 @@ var steps = [4]place{{-1, 0}, {0, -1}, {0, 1}, {1, 0}}
 
 // ValidGrid reports whether rows are a grid.
 func ValidGrid(h [][]int) bool {
-	if len(h) < 1 || len(h) > MaxSide {
+	return validRows(h, MaxSide, MaxHeight)
+}
+
+// validRows reports whether there is at least one row, and at most so many, all of as many numbers, for which the same
+// holds, in 0 up to the greatest one.
+func validRows(rows [][]int, side, greatest int) bool {
+	if len(rows) < 1 || len(rows) > side {
 		return false
 	}
-	for _, row := range h {
-		if len(row) != len(h[0]) || !validHeights(row, MaxSide) {
+	for _, row := range rows {
+		if len(row) != len(rows[0]) || !validNumbers(row, side, greatest) {
 			return false
 		}
 	}
 	return true
 }
 
-// validHeights reports whether there is at least one number, and at most so many, all of them heights.
-func validHeights(numbers []int, most int) bool {
+// validNumbers reports whether there is at least one number, and at most so many, all of them in 0 up to the greatest one.
+func validNumbers(numbers []int, most, greatest int) bool {
 	if len(numbers) < 1 || len(numbers) > most {
 		return false
 	}
-	for _, height := range numbers {
-		if height < 0 || height > MaxHeight {
+	for _, number := range numbers {
+		if number < 0 || number > greatest {
 			return false
 		}
 	}

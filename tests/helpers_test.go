@@ -70,32 +70,36 @@ func everyGrid(r, c, heights int) [][][]int {
 }
 
 // badGrids returns rows that are not a grid, by what is wrong with them.
-func badGrids() map[string][][]int {
+func badGrids() map[string][][]int { return badRows(impl.MaxSide, impl.MaxHeight) }
+
+// badRows returns rows that are not as many as they must be, or not of as many numbers, up to so many both, or not of numbers
+// from 0 up to the greatest one, by what is wrong with them.
+func badRows(most, greatest int) map[string][][]int {
 	flat := func(r, c int) [][]int { return gridOf(r, c, func() int { return 1 }) }
 	bad := map[string][][]int{
 		"nil":                           nil,
 		"no rows":                       {},
-		"one row without heights":       {{}},
+		"one row without numbers":       {{}},
 		"one nil row":                   {nil},
-		"rows without heights":          {{}, {}},
-		"a row without heights":         {{1, 1}, {}},
-		"no heights in the first row":   {{}, {1}},
+		"rows without numbers":          {{}, {}},
+		"a row without numbers":         {{1, 1}, {}},
+		"no numbers in the first row":   {{}, {1}},
 		"a shorter row":                 {{1, 1}, {1}},
 		"a longer row":                  {{1}, {1, 1}},
 		"a longer row in the middle":    {{1, 1}, {1, 1, 1}, {1, 1}},
-		"as many heights, unequal rows": {{1, 1, 1}, {1}},
-		"a row too many":                flat(impl.MaxSide+1, 1),
-		"a row too many of many":        flat(impl.MaxSide+1, impl.MaxSide),
-		"a height too many in a row":    flat(1, impl.MaxSide+1),
-		"a height too many in all rows": flat(impl.MaxSide, impl.MaxSide+1),
+		"as many numbers, unequal rows": {{1, 1, 1}, {1}},
+		"a row too many":                flat(most+1, 1),
+		"a row too many of many":        flat(most+1, most),
+		"a number too many in a row":    flat(1, most+1),
+		"a number too many in all rows": flat(most, most+1),
 		"far too many rows":             flat(100, 2),
 	}
-	for _, height := range []int{-1, impl.MaxHeight + 1, math.MinInt, math.MaxInt} {
-		for _, side := range []int{1, 3, impl.MaxSide} {
+	for _, number := range []int{-1, greatest + 1, math.MinInt, math.MaxInt} {
+		for _, side := range []int{1, 3, most} {
 			for i := range side * side {
 				h := flat(side, side)
-				h[i/side][i%side] = height
-				bad[fmt.Sprintf("height %d at the cell %d of %d rows", height, i, side)] = h
+				h[i/side][i%side] = number
+				bad[fmt.Sprintf("%d at the cell %d of %d rows", number, i, side)] = h
 			}
 		}
 	}
@@ -156,10 +160,16 @@ func overwrite(rows ...[]int) {
 	}
 }
 
-// checkGridToRows checks that a function keeps its argument, and that its rows share no memory with it or each other.
+// checkGridToRows checks with grids that a function keeps its argument, and that its rows share no memory with it or each other.
 func checkGridToRows(t *testing.T, name string, f func([][]int) [][]int) {
 	t.Helper()
-	for _, h := range sampleGrids() {
+	checkRowsToRows(t, name, sampleGrids(), f)
+}
+
+// checkRowsToRows checks that a function keeps each of its arguments, and that its rows share no memory with it or each other.
+func checkRowsToRows(t *testing.T, name string, arguments [][][]int, f func([][]int) [][]int) {
+	t.Helper()
+	for _, h := range arguments {
 		before := cloneRows(h)
 		want := cloneRows(f(h))
 		if !equalRows(h, before) {
