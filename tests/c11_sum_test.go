@@ -602,11 +602,12 @@ func lexemes(s string) []string {
 	return cut
 }
 
-// withCharactersChanged returns texts that are one character more, less or another one away, or have two the other way round.
-func withCharactersChanged(s string) []string {
+// withCharactersChanged returns texts that are one character less, or one of the characters more or for another one, away, or
+// have two the other way round.
+func withCharactersChanged(s, characters string) []string {
 	var changed []string
 	for i := range len(s) + 1 {
-		for _, more := range "0123456789;.() +-,x" {
+		for _, more := range characters {
 			changed = append(changed, s[:i]+string(more)+s[i:])
 			if i < len(s) {
 				changed = append(changed, s[:i]+string(more)+s[i+1:])
@@ -645,7 +646,7 @@ func TestPromise62WhatIsReadByQuartersIsWrittenSo(t *testing.T) {
 		grids := gridsOfFlats(size[0], size[1])
 		for _, h := range grids[:12] {
 			text := impl.QuadOf(h)
-			for _, s := range slices.Concat([]string{text}, withCharactersChanged(text), withLexemesChanged(text)) {
+			for _, s := range slices.Concat([]string{text}, withCharactersChanged(text, "0123456789;.() +-,x"), withLexemesChanged(text)) {
 				if checkReading(t, s, size[0], size[1]) {
 					read++
 				} else {
